@@ -119,6 +119,16 @@ func wantNoElement(t *testing.T, m maker, above int) {
 	}
 }
 
+// TestAll has what Element gives one by one.
+func TestAll(t *testing.T) {
+	for _, m := range some() {
+		got, e := group.All(m.n, m.makers)
+		if e != api.OK || !slices.EqualFunc(got, members(m.n, m.makers), slices.Equal) {
+			t.Errorf("%s: got %d, error %d", name("All", m), len(got), e)
+		}
+	}
+}
+
 // TestElementOfMany has G2 on 7 points: of all permutations the rank is the number.
 func TestElementOfMany(t *testing.T) {
 	every := maker{7, [][]int{turn(7), {1, 0, 2, 3, 4, 5, 6}}}

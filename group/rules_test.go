@@ -34,6 +34,9 @@ func wantError(t *testing.T, m maker, want api.Errno) {
 	if got, e := group.Orbits(m.n, m.makers); e != want || len(got) != 0 {
 		t.Errorf("%s: got %v, error %d, want %d", name("Orbits", m), got, e, want)
 	}
+	if got, e := group.All(m.n, m.makers); e != want || len(got) != 0 {
+		t.Errorf("%s: got %v, error %d, want %d", name("All", m), got, e, want)
+	}
 	if got, e := group.Fixed(m.n, m.makers); e != want || len(got) != 0 {
 		t.Errorf("%s: got %v, error %d, want %d", name("Fixed", m), got, e, want)
 	}
@@ -238,10 +241,11 @@ func TestWhatComesOutIsFresh(t *testing.T) {
 		a, _ := group.Element(7, makers, 0)
 		b, _ := group.Element(7, makers, 3)
 		fixed, _ := group.Fixed(7, makers)
-		return append(lists, a, b, fixed)
+		all, _ := group.All(7, makers)
+		return append(append(lists, a, b, fixed), all...)
 	}
 	lists, want := tell(), tell()
-	if len(lists) != 4+3 {
+	if len(lists) != 4+3+4 {
 		t.Fatalf("got %v", lists)
 	}
 	for i, list := range lists {

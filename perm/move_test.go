@@ -202,3 +202,15 @@ func TestAlikeButNot(t *testing.T) {
 		}
 	}
 }
+
+// TestKind has the cycles of each length, as each point tells them.
+func TestKind(t *testing.T) {
+	for _, a := range some() {
+		want := make([]int, len(a))
+		for _, long := range lengths(a) {
+			want[long-1]++
+		}
+		got, e := perm.Kind(a)
+		wantList(t, fmt.Sprint("Kind ", a), got, e, want)
+	}
+}

@@ -85,6 +85,9 @@ func wantError(t *testing.T, a []int, want api.Errno) {
 			t.Errorf("Power(%v, %d): got %v, error %d, want %d", a, n, got, e, want)
 		}
 	}
+	if got, e := perm.Kind(a); e != want || len(got) != 0 {
+		t.Errorf("Kind(%v): got %v, error %d, want %d", a, got, e, want)
+	}
 	if got, e := perm.Cycles(a); e != want || got != "" {
 		t.Errorf("Cycles(%v): got %q, error %d, want %d", a, got, e, want)
 	}
@@ -218,6 +221,7 @@ func TestWhatComesOutIsFresh(t *testing.T) {
 		func() []int { out, _ := perm.Parse("(0 2)", 4); return out },
 		func() []int { out, _ := perm.Parse("()", 4); return out },
 		func() []int { out, _ := perm.Unrank(4, 17); return out },
+		func() []int { out, _ := perm.Kind([]int{1, 2, 0, 3}); return out },
 	}
 	for i, call := range calls {
 		a, b := call(), call()
