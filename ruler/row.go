@@ -20,16 +20,18 @@ func newRow(apart func(places, much int) gap) *row {
 	return &row{often: map[gap]int{}, apart: apart}
 }
 
-// put adds a number at the end, and tells whether none of its gaps was there.
+// put adds a number at the end, if none of its gaps is there; those of one number are unlike, as no number stands twice.
 func (r *row) put(x int) bool {
-	fits := true
 	for i, y := range r.numbers {
-		g := r.apart(len(r.numbers)-i, x-y)
-		fits = fits && r.often[g] == 0
-		r.often[g]++
+		if r.often[r.apart(len(r.numbers)-i, x-y)] > 0 {
+			return false
+		}
+	}
+	for i, y := range r.numbers {
+		r.often[r.apart(len(r.numbers)-i, x-y)]++
 	}
 	r.numbers = append(r.numbers, x)
-	return fits
+	return true
 }
 
 // drop takes the last number away, with its gaps.

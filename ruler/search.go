@@ -22,8 +22,14 @@ func firstUpTo(n, length int) []int {
 		if len(r.numbers) == n {
 			return true
 		}
-		for x := from; x <= length; x++ {
-			if r.put(x) && grows(x+1) {
+		// The marks behind the next one have unlike gaps, so that they take this much at least.
+		rest := n - len(r.numbers) - 1
+		most := length - rest*(rest+1)/2
+		for x := from; x <= most; x++ {
+			if !r.put(x) {
+				continue
+			}
+			if grows(x + 1) {
 				return true
 			}
 			r.drop()
@@ -51,8 +57,8 @@ func countCostas(n int) int {
 			}
 			if r.put(x) {
 				out += count()
+				r.drop()
 			}
-			r.drop()
 		}
 		return out
 	}
